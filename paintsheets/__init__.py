@@ -1,0 +1,1 @@
+"""Sheets of paint; the calls are in paintsheets.sheets."""

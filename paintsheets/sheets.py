@@ -1,0 +1,87 @@
+"""Sheets of paint as bytes: the bytes judged, and the sheet's size read from them."""
+
+MARK = (67, 69, 76, 49)
+W_PLACE = 4
+H_PLACE = 6
+RUNS_PLACE = 8
+LARGEST_SIDE = 256
+# No sheet has more: 8 bytes, and two for each of 256 times 256 points.
+MOST_BYTES = 131080
+
+
+def judge(b):
+    if len(b) > MOST_BYTES:
+        return [-2]
+    fault = first_fault(b)
+    if fault is None:
+        return [0]
+    return [-6, fault[0], fault[1]]
+
+
+def size(b):
+    judged = judge(b)[0]
+    if judged != 0:
+        return [judged]
+    return [two_bytes(b, W_PLACE), two_bytes(b, H_PLACE)]
+
+
+# A fault is its kind and its place; None stands for no fault.
+def first_fault(b):
+    fault = head_fault(b)
+    if fault is not None:
+        return fault
+    return runs_fault(b, two_bytes(b, W_PLACE), two_bytes(b, H_PLACE))
+
+
+def head_fault(b):
+    if len(b) < RUNS_PLACE or b[:len(MARK)] != list(MARK):
+        return (1, 0)
+    if not is_side(two_bytes(b, W_PLACE)):
+        return (2, W_PLACE)
+    if not is_side(two_bytes(b, H_PLACE)):
+        return (2, H_PLACE)
+    return None
+
+
+def runs_fault(b, w, h):
+    place = RUNS_PLACE
+    for y in range(h):
+        left = w
+        # A row's first run has none before it, whatever the row above ended with.
+        paint_before = None
+        while left > 0:
+            fault = run_fault(b, place, left, paint_before)
+            if fault is not None:
+                return fault
+            left = left - run_length(b, place)
+            paint_before = run_paint(b, place)
+            place = place + 2
+    if place < len(b):
+        return (6, place)
+    return None
+
+
+def run_fault(b, place, left, paint_before):
+    if len(b) - place < 2:
+        return (3, len(b))
+    if run_length(b, place) > left:
+        return (4, place)
+    if run_paint(b, place) == paint_before:
+        return (5, place)
+    return None
+
+
+def run_length(b, place):
+    return b[place] + 1
+
+
+def run_paint(b, place):
+    return b[place + 1]
+
+
+def two_bytes(b, place):
+    return b[place] + 256 * b[place + 1]
+
+
+def is_side(n):
+    return 1 <= n <= LARGEST_SIDE
