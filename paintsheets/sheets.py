@@ -1,4 +1,4 @@
-"""Sheets of paint as bytes: the bytes judged, and the sheet's size read from them."""
+"""Sheets of paint, as bytes and as points."""
 
 MARK = (67, 69, 76, 49)
 W_PLACE = 4
@@ -23,6 +23,25 @@ def size(b):
     if judged != 0:
         return [judged]
     return [two_bytes(b, W_PLACE), two_bytes(b, H_PLACE)]
+
+
+def open_of(b):
+    judged = judge(b)[0]
+    if judged != 0:
+        return [judged]
+    points = []
+    for place in range(RUNS_PLACE, len(b), 2):
+        points.extend([run_paint(b, place)] * run_length(b, place))
+    return [len(points)] + points
+
+
+def keep(w, h, a):
+    if not are_points(a, w, h):
+        return [-1]
+    b = list(MARK) + as_two_bytes(w) + as_two_bytes(h)
+    for start in range(0, len(a), w):
+        b.extend(row_runs(a[start:start + w]))
+    return [len(b)] + b
 
 
 # A fault is its kind and its place; None stands for no fault.
@@ -83,5 +102,23 @@ def two_bytes(b, place):
     return b[place] + 256 * b[place + 1]
 
 
+def as_two_bytes(n):
+    return [n % 256, n // 256]
+
+
+def row_runs(row):
+    runs = []
+    start = 0
+    for x in range(1, len(row) + 1):
+        if x == len(row) or row[x] != row[start]:
+            runs.extend([x - start - 1, row[start]])
+            start = x
+    return runs
+
+
 def is_side(n):
     return 1 <= n <= LARGEST_SIDE
+
+
+def are_points(a, w, h):
+    return is_side(w) and is_side(h) and len(a) == w * h

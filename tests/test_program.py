@@ -15,6 +15,8 @@ FILES = sorted(p for p in PACKAGE.rglob("*") if p.is_file() and "__pycache__" no
 INTERFACE = {
     "judge": ["b"],
     "size": ["b"],
+    "open_of": ["b"],
+    "keep": ["w", "h", "a"],
 }
 STATEMENTS = (
     ast.FunctionDef, ast.ClassDef, ast.Assign, ast.AugAssign, ast.If, ast.While, ast.For, ast.Return, ast.Break,
