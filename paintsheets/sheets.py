@@ -1,10 +1,11 @@
-"""Sheets of paint, as bytes and as points."""
+"""Sheets of paint, as bytes and as points; sheets laid over one another, and moved."""
 
 MARK = (67, 69, 76, 49)
 W_PLACE = 4
 H_PLACE = 6
 RUNS_PLACE = 8
 LARGEST_SIDE = 256
+CLEAR = 0
 # No sheet has more: 8 bytes, and two for each of 256 times 256 points.
 MOST_BYTES = 131080
 
@@ -42,6 +43,21 @@ def keep(w, h, a):
     for start in range(0, len(a), w):
         b.extend(row_runs(a[start:start + w]))
     return [len(b)] + b
+
+
+def over(w, h, up, low):
+    if not are_points(up, w, h) or not are_points(low, w, h):
+        return [-1]
+    return [len(up)] + [paint_over(above, below) for above, below in zip(up, low)]
+
+
+def move(w, h, dx, dy, a):
+    if not are_points(a, w, h):
+        return [-1]
+    points = []
+    for y in range(h):
+        points.extend([paint_at(a, w, h, x - dx, y - dy) for x in range(w)])
+    return [len(points)] + points
 
 
 # A fault is its kind and its place; None stands for no fault.
@@ -114,6 +130,19 @@ def row_runs(row):
             runs.extend([x - start - 1, row[start]])
             start = x
     return runs
+
+
+def paint_over(above, below):
+    if above != CLEAR:
+        return above
+    return below
+
+
+def paint_at(a, w, h, x, y):
+    # An x outside the row has a number all the same: that of a point in another row.
+    if 0 <= x < w and 0 <= y < h:
+        return a[y * w + x]
+    return CLEAR
 
 
 def is_side(n):

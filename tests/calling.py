@@ -1,9 +1,12 @@
-"""What the tests share: the bytes of sheets, and calls that watch what the program does beside answering."""
+"""What the tests share: sheets, right and wrong, and calls that watch what the program does beside answering."""
 
 import contextlib
 import io
+import itertools
 
 MARK = [0x43, 0x45, 0x4C, 0x31]
+VERY_LARGE = (65535, 65537, 4294967296, 18446744073709551615)
+WRONG_SIDES = (0, 257) + VERY_LARGE
 
 
 def head(w, h):
@@ -17,6 +20,30 @@ def sheet_bytes(w, h, *rows):
         for points, paint in row:
             b = b + [points - 1, paint]
     return b
+
+
+def lists(values, length):
+    return [list(t) for t in itertools.product(values, repeat=length)]
+
+
+def patterned(w, h):
+    return [(x // (1 + y % 5) * 37 + y // 2) % 256 for y in range(h) for x in range(w)]
+
+
+def wrong_sizes():
+    """Each a width, a height, and how many points are handed in, all wrong by the width or the height."""
+    wrong = [(w, 1, points) for w in WRONG_SIDES for points in (0, 1, 257)]
+    wrong += [(1, h, points) for h in WRONG_SIDES for points in (0, 1, 257)]
+    wrong += [(w, h, 0) for w in WRONG_SIDES for h in WRONG_SIDES]
+    return wrong + [(514, 2, 1028), (2, 514, 1028)]
+
+
+def wrong_counts():
+    """Each a width and a height that are right, and another number of points than theirs."""
+    return [
+        (1, 1, 0), (256, 256, 0), (3, 2, 0), (1, 1, 2), (3, 2, 3), (3, 2, 5), (3, 2, 7), (3, 2, 12),
+        (256, 1, 255), (256, 1, 257), (1, 256, 255), (1, 256, 257), (256, 24, 6143),
+    ]
 
 
 class GuardedList(list):
@@ -39,6 +66,18 @@ def copied(values):
 
 class Calling:
     """For a TestCase: `answers` holds a call to its answer and to all that it must leave alone."""
+
+    def setUp(self):
+        self.addTypeEqualityFunc(list, self.same_list)
+
+    def same_list(self, first, second, msg=None):
+        """In the place of unittest's own, which takes minutes to show how two long lists differ."""
+        if first == second:
+            return
+        shorter = min(len(first), len(second))
+        place = next((k for k in range(shorter) if first[k] != second[k]), shorter)
+        told = f"lists of {len(first)} and {len(second)}; from {place} on: "
+        self.fail(self._formatMessage(msg, told + f"{first[place:place + 12]} and {second[place:place + 12]}"))
 
     def answers(self, function, given, wanted):
         printed = io.StringIO()

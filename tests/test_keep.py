@@ -1,9 +1,7 @@
 import unittest
 
-from calling import MARK, Calling, sheet_bytes
+from calling import MARK, Calling, sheet_bytes, wrong_counts, wrong_sizes
 from paintsheets.sheets import keep
-
-VERY_LARGE = (65535, 65537, 4294967296, 18446744073709551615)
 
 
 class Kept(Calling, unittest.TestCase):
@@ -49,36 +47,7 @@ class Kept(Calling, unittest.TestCase):
 
 
 class Refused(Calling, unittest.TestCase):
-    def refused(self, w, h, a):
-        with self.subTest(w=w, h=h, points=len(a)):
-            self.answers(keep, [w, h, a], [-1])
-
-    def test_width(self):
-        for w in (0, 257) + VERY_LARGE:
-            for a in ([], [7], [7] * 257):
-                self.refused(w, 1, a)
-
-    def test_height(self):
-        for h in (0, 257) + VERY_LARGE:
-            for a in ([], [7], [7] * 257):
-                self.refused(1, h, a)
-
-    def test_width_and_height(self):
-        for w in (0, 257) + VERY_LARGE:
-            for h in (0, 257) + VERY_LARGE:
-                self.refused(w, h, [])
-        self.refused(514, 2, [7] * 1028)
-        self.refused(2, 514, [7] * 1028)
-
-    def test_points_fewer_or_more(self):
-        self.refused(1, 1, [7, 7])
-        self.refused(3, 2, [7] * 5)
-        self.refused(3, 2, [7] * 7)
-        self.refused(3, 2, [7] * 12)
-        self.refused(3, 2, [7] * 3)
-        self.refused(256, 1, [7] * 255)
-        self.refused(256, 1, [7] * 257)
-
-    def test_no_points(self):
-        self.refused(1, 1, [])
-        self.refused(256, 256, [])
+    def test_sizes_and_points(self):
+        for w, h, points in wrong_sizes() + wrong_counts():
+            with self.subTest(w=w, h=h, points=points):
+                self.answers(keep, [w, h, [7] * points], [-1])

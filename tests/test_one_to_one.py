@@ -1,18 +1,9 @@
 """A1: bytes and sheets are one to one; bytes that are none have one first fault."""
 
-import itertools
 import unittest
 
-from calling import Calling, head, sheet_bytes
+from calling import Calling, head, lists, patterned, sheet_bytes
 from paintsheets.sheets import judge, keep, open_of, size
-
-
-def lists(values, length):
-    return [list(t) for t in itertools.product(values, repeat=length)]
-
-
-def patterned(w, h):
-    return [(x // (1 + y % 5) * 37 + y // 2) % 256 for y in range(h) for x in range(w)]
 
 
 class BothWays(Calling, unittest.TestCase):

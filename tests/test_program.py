@@ -17,6 +17,8 @@ INTERFACE = {
     "size": ["b"],
     "open_of": ["b"],
     "keep": ["w", "h", "a"],
+    "over": ["w", "h", "up", "low"],
+    "move": ["w", "h", "dx", "dy", "a"],
 }
 STATEMENTS = (
     ast.FunctionDef, ast.ClassDef, ast.Assign, ast.AugAssign, ast.If, ast.While, ast.For, ast.Return, ast.Break,
