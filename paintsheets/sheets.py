@@ -1,10 +1,11 @@
-"""Sheets of paint, as bytes and as points; sheets laid over one another, and moved."""
+"""Sheets of paint, as bytes and as points; sheets laid over one another, moved, repainted, and counted."""
 
 MARK = (67, 69, 76, 49)
 W_PLACE = 4
 H_PLACE = 6
 RUNS_PLACE = 8
 LARGEST_SIDE = 256
+LARGEST_PAINT = 255
 CLEAR = 0
 # No sheet has more: 8 bytes, and two for each of 256 times 256 points.
 MOST_BYTES = 131080
@@ -58,6 +59,18 @@ def move(w, h, dx, dy, a):
     for y in range(h):
         points.extend([paint_at(a, w, h, x - dx, y - dy) for x in range(w)])
     return [len(points)] + points
+
+
+def repaint(w, h, a, table):
+    if not are_points(a, w, h) or len(table) != LARGEST_PAINT + 1:
+        return [-1]
+    return [len(a)] + [repainted(paint, table) for paint in a]
+
+
+def count(w, h, p, a):
+    if not are_points(a, w, h) or p > LARGEST_PAINT:
+        return [-1]
+    return [a.count(p)]
 
 
 # A fault is its kind and its place; None stands for no fault.
@@ -143,6 +156,12 @@ def paint_at(a, w, h, x, y):
     if 0 <= x < w and 0 <= y < h:
         return a[y * w + x]
     return CLEAR
+
+
+def repainted(paint, table):
+    if paint == CLEAR:
+        return CLEAR
+    return table[paint]
 
 
 def is_side(n):

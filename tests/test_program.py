@@ -19,6 +19,8 @@ INTERFACE = {
     "keep": ["w", "h", "a"],
     "over": ["w", "h", "up", "low"],
     "move": ["w", "h", "dx", "dy", "a"],
+    "repaint": ["w", "h", "a", "table"],
+    "count": ["w", "h", "p", "a"],
 }
 STATEMENTS = (
     ast.FunctionDef, ast.ClassDef, ast.Assign, ast.AugAssign, ast.If, ast.While, ast.For, ast.Return, ast.Break,
