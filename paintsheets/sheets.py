@@ -1,4 +1,4 @@
-"""Sheets of paint, as bytes and as points; sheets laid over one another, moved, repainted, and counted."""
+"""Sheets of paint, as bytes and as points; sheets laid over one another, moved, repainted, counted, and compared."""
 
 MARK = (67, 69, 76, 49)
 W_PLACE = 4
@@ -71,6 +71,26 @@ def count(w, h, p, a):
     if not are_points(a, w, h) or p > LARGEST_PAINT:
         return [-1]
     return [a.count(p)]
+
+
+def box(w, h, a):
+    if not are_points(a, w, h):
+        return [-1]
+    painted = [number for number, paint in enumerate(a) if paint != CLEAR]
+    if len(painted) == 0:
+        return [-3]
+    xs = [number % w for number in painted]
+    ys = [number // w for number in painted]
+    return [min(xs), min(ys), max(xs), max(ys)]
+
+
+def differ(w, h, a, b):
+    if not are_points(a, w, h) or not are_points(b, w, h):
+        return [-1]
+    for number in range(len(a)):
+        if a[number] != b[number]:
+            return [number]
+    return [-3]
 
 
 # A fault is its kind and its place; None stands for no fault.

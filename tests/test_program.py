@@ -21,6 +21,8 @@ INTERFACE = {
     "move": ["w", "h", "dx", "dy", "a"],
     "repaint": ["w", "h", "a", "table"],
     "count": ["w", "h", "p", "a"],
+    "box": ["w", "h", "a"],
+    "differ": ["w", "h", "a", "b"],
 }
 STATEMENTS = (
     ast.FunctionDef, ast.ClassDef, ast.Assign, ast.AugAssign, ast.If, ast.While, ast.For, ast.Return, ast.Break,
