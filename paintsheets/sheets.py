@@ -1,4 +1,7 @@
-"""Sheets of paint, as bytes and as points; sheets laid over one another, moved, repainted, counted, and compared."""
+"""Sheets of paint, as bytes and as points; sheets laid over one another, moved, repainted, counted, and compared.
+
+Film, exposed to the light of sheets, and developed.
+"""
 
 MARK = (67, 69, 76, 49)
 W_PLACE = 4
@@ -9,6 +12,11 @@ LARGEST_PAINT = 255
 CLEAR = 0
 # No sheet has more: 8 bytes, and two for each of 256 times 256 points.
 MOST_BYTES = 131080
+COLOURS = 3
+MODEL_BYTES = 768
+LARGEST_EXPOSURE = 64
+LARGEST_FILM_NUMBER = 65535
+LARGEST_BYTE = 255
 
 
 def judge(b):
@@ -91,6 +99,20 @@ def differ(w, h, a, b):
         if a[number] != b[number]:
             return [number]
     return [-3]
+
+
+def expose(w, h, e, film, a, model):
+    if not are_points(a, w, h) or not is_film(film, w, h):
+        return [-1]
+    if len(model) != MODEL_BYTES or e > LARGEST_EXPOSURE:
+        return [-1]
+    return [exposed(number, e, light) for number, light in zip(film, lights(a, model))]
+
+
+def develop(w, h, film):
+    if not is_film(film, w, h):
+        return [-1]
+    return [len(film)] + [developed(number) for number in film]
 
 
 # A fault is its kind and its place; None stands for no fault.
@@ -184,9 +206,31 @@ def repainted(paint, table):
     return table[paint]
 
 
+# In the order of a film's numbers: every point's red, then every point's green, then every point's blue.
+def lights(a, model):
+    found = []
+    for colour in range(COLOURS):
+        found.extend([model[COLOURS * paint + colour] for paint in a])
+    return found
+
+
+def exposed(number, e, light):
+    return min(LARGEST_FILM_NUMBER, number + e * light)
+
+
+def developed(number):
+    return min(LARGEST_BYTE, (number + 32) // 64)
+
+
 def is_side(n):
     return 1 <= n <= LARGEST_SIDE
 
 
 def are_points(a, w, h):
     return is_side(w) and is_side(h) and len(a) == w * h
+
+
+def is_film(film, w, h):
+    if not is_side(w) or not is_side(h) or len(film) != COLOURS * w * h:
+        return False
+    return max(film) <= LARGEST_FILM_NUMBER

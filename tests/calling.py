@@ -30,6 +30,20 @@ def patterned(w, h):
     return [(x // (1 + y % 5) * 37 + y // 2) % 256 for y in range(h) for x in range(w)]
 
 
+def model_of(lights):
+    """The model with the lights that are told, {paint: [red, green, blue]}, and no light of other paints."""
+    return [n for paint in range(256) for n in lights.get(paint, [0, 0, 0])]
+
+
+def patterned_model():
+    """A model with the three numbers of each paint apart, and no two paints' lights alike."""
+    return [n for p in range(256) for n in (p, 255 - p // 2, (p * 5 + 77) % 256)]
+
+
+def patterned_film(w, h):
+    return [(n * 4099 + n // 7) % 65536 for n in range(3 * w * h)]
+
+
 def wrong_sizes():
     """Each a width, a height, and how many points are handed in, all wrong by the width or the height."""
     wrong = [(w, 1, points) for w in WRONG_SIDES for points in (0, 1, 257)]
@@ -44,6 +58,17 @@ def wrong_counts():
         (1, 1, 0), (256, 256, 0), (3, 2, 0), (1, 1, 2), (3, 2, 3), (3, 2, 5), (3, 2, 7), (3, 2, 12),
         (256, 1, 255), (256, 1, 257), (1, 256, 255), (1, 256, 257), (256, 24, 6143),
     ]
+
+
+def wrong_films(w, h):
+    """Each no film of the width and height, though these be right: by its length, or by one of its numbers."""
+    right = patterned_film(w, h)
+    lengths = [0, w * h, len(right) - 1, len(right) + 1, 2 * len(right)]
+    wrong = [(right * 2)[:length] for length in lengths]
+    for place in (0, len(right) // 2, len(right) - 1):
+        for number in (65536, 65537, 131071, 4294967295):
+            wrong.append(right[:place] + [number] + right[place + 1:])
+    return wrong
 
 
 class GuardedList(list):

@@ -2,8 +2,48 @@
 
 import unittest
 
-from calling import Calling, head, lists, patterned, sheet_bytes
+from calling import MARK, Calling, head, lists, patterned, sheet_bytes
 from paintsheets.sheets import judge, keep, open_of, size
+
+SHEETS = (
+    sheet_bytes(1, 1, [(1, 7)]),
+    sheet_bytes(2, 3, [(2, 0)], [(1, 255), (1, 0)], [(2, 0)]),
+    sheet_bytes(4, 2, [(1, 1), (2, 2), (1, 1)], [(3, 1), (1, 2)]),
+    sheet_bytes(256, 2, [(256, 5)], [(255, 5), (1, 6)]),
+    sheet_bytes(255, 1, [(100, 8), (155, 9)]),
+    sheet_bytes(1, 5, [(1, 3)], [(1, 3)], [(1, 0)], [(1, 1)], [(1, 1)]),
+)
+
+
+def fault_of(b):
+    """The first fault as the document tells it, found by counting the points of all rows through."""
+    if len(b) < 8 or b[:4] != MARK:
+        return [1, 0]
+    w, h = b[4] + 256 * b[5], b[6] + 256 * b[7]
+    if w not in range(1, 257):
+        return [2, 4]
+    if h not in range(1, 257):
+        return [2, 6]
+    place, points = 8, 0
+    while points < w * h:
+        if place + 2 > len(b):
+            return [3, len(b)]
+        if points % w + b[place] + 1 > w:
+            return [4, place]
+        if points % w > 0 and b[place + 1] == b[place - 1]:
+            return [5, place]
+        points += b[place] + 1
+        place += 2
+    return [6, place] if place < len(b) else None
+
+
+def near(b):
+    """Bytes that are nearly b: one of them another, left out, twice, or behind the next; b's beginnings; b and more."""
+    found = []
+    for k in range(len(b)):
+        found += [b[:k] + [n] + b[k + 1:] for n in range(256)]
+        found += [b[:k], b[:k] + b[k + 1:], b[:k + 1] + b[k:], b[:k] + b[k:k + 2][::-1] + b[k + 2:]]
+    return found + [b + more for more in ([0], [255], [0, 0], [0, 1, 2], b, b[8:])]
 
 
 class BothWays(Calling, unittest.TestCase):
@@ -55,3 +95,24 @@ class BothWays(Calling, unittest.TestCase):
                     self.assertEqual(len(judge(b)), 3)
                     self.assertEqual(size(b), [-6])
                     self.assertEqual(open_of(b), [-6])
+
+
+class NearSheets(Calling, unittest.TestCase):
+    def test_each_is_a_sheet_or_has_the_first_fault(self):
+        for sheet in SHEETS:
+            for b in near(sheet):
+                fault = fault_of(b)
+                if fault is None:
+                    self.assertEqual(judge(b), [0], b)
+                    w, h = size(b)
+                    opened = open_of(b)
+                    self.assertEqual(opened[0], w * h, b)
+                    self.assertEqual(keep(w, h, opened[1:]), [len(b)] + b)
+                else:
+                    self.assertEqual(judge(b), [-6] + fault, b)
+                    self.assertEqual(size(b), [-6], b)
+                    self.assertEqual(open_of(b), [-6], b)
+
+    def test_all_kinds_and_sheets_are_among_them(self):
+        faults = [fault_of(b) for sheet in SHEETS for b in near(sheet)]
+        self.assertEqual({fault[0] if fault else 0 for fault in faults}, set(range(7)))

@@ -23,6 +23,8 @@ INTERFACE = {
     "count": ["w", "h", "p", "a"],
     "box": ["w", "h", "a"],
     "differ": ["w", "h", "a", "b"],
+    "expose": ["w", "h", "e", "film", "a", "model"],
+    "develop": ["w", "h", "film"],
 }
 STATEMENTS = (
     ast.FunctionDef, ast.ClassDef, ast.Assign, ast.AugAssign, ast.If, ast.While, ast.For, ast.Return, ast.Break,
